@@ -493,9 +493,10 @@ func TestNumsStayTheSame(t *testing.T) {
 	}
 }
 
-// The list is never read, so the machine does not have to provide its 8 GB.
 func TestPutNumsTooMany(t *testing.T) {
-	l := make([]int, mostNum+1)
-	wantBytes(t, "PutNums of a list that is too long", impl.PutNums([]byte{7, 8, 9}, l), []byte{7, 8, 9})
-	wantBytes(t, "PutNums of a list that is too long", impl.PutNums(nil, l), nil)
+	l := zeroNums(t, mostNum+1)
+	// Only the length is printed: what a wrong PutNums returns here has a gigabyte.
+	if b := impl.PutNums([]byte{7, 8, 9}, l); !bytes.Equal(b, []byte{7, 8, 9}) {
+		t.Errorf("PutNums of a list that is too long has %d bytes, want the 3 of its argument", len(b))
+	}
 }

@@ -2,7 +2,9 @@ package tests
 
 import (
 	"slices"
+	"syscall"
 	"testing"
+	"unsafe"
 )
 
 // spare returns a slice with the given elements whose spare capacity holds marks, and a check that
@@ -26,4 +28,17 @@ func scribble[E any](l []E, mark E) {
 	for i := range l {
 		l[i] = mark
 	}
+}
+
+// zeroNums returns k zeros that must not be written. They are mapped and not made, since k may be so
+// large that the machine should not provide their memory.
+func zeroNums(t *testing.T, k int) []int {
+	t.Helper()
+	size := k * int(unsafe.Sizeof(0))
+	b, err := syscall.Mmap(-1, 0, size, syscall.PROT_READ, syscall.MAP_PRIVATE|syscall.MAP_ANON|syscall.MAP_NORESERVE)
+	if err != nil {
+		t.Skip("the machine maps no", size, "bytes:", err)
+	}
+	t.Cleanup(func() { syscall.Munmap(b) })
+	return unsafe.Slice((*int)(unsafe.Pointer(&b[0])), k)
 }
