@@ -9,7 +9,7 @@ const (
 	moreBit   = 1 << groupBits
 	// 2*MaxInt has 31 bits, so no encoding has more groups than this.
 	maxGroups = 5
-	// maxListed limits the lists that GetNums decodes, so that a forged count allocates little.
+	// maxListed limits the lists that are decoded, so that a forged count allocates little.
 	maxListed = 64
 	// longestNum is the length of NumText(-MaxInt).
 	longestNum = 11
