@@ -358,17 +358,27 @@ func TestParseValShortTexts(t *testing.T) {
 	}
 }
 
-// TestParseValNearTexts changes texts of values in one place, which makes some of them invalid.
+// nearTexts returns the texts that differ from s in one place: a byte is inserted, replaced or removed.
+func nearTexts(s string) []string {
+	var out []string
+	for at := range len(s) + 1 {
+		for c := range 256 {
+			out = append(out, s[:at]+string([]byte{byte(c)})+s[at:])
+			if at < len(s) {
+				out = append(out, s[:at]+string([]byte{byte(c)})+s[at+1:])
+			}
+		}
+		if at < len(s) {
+			out = append(out, s[:at]+s[at+1:])
+		}
+	}
+	return out
+}
+
 func TestParseValNearTexts(t *testing.T) {
 	for _, s := range []string{"0", "-4", "12", "999999999", "1000000000", "-1000000000", "100000000", "'", "'a", "'red", "'12345", "'seven7"} {
-		for at := range len(s) + 1 {
-			for c := range 256 {
-				wantPlainVal(t, s[:at]+string([]byte{byte(c)})+s[at:])
-				if at < len(s) {
-					wantPlainVal(t, s[:at]+string([]byte{byte(c)})+s[at+1:])
-					wantPlainVal(t, s[:at]+s[at+1:])
-				}
-			}
+		for _, near := range nearTexts(s) {
+			wantPlainVal(t, near)
 		}
 	}
 }

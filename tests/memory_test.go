@@ -5,6 +5,8 @@ import (
 	"syscall"
 	"testing"
 	"unsafe"
+
+	"loop.example/g00496/impl"
 )
 
 // spare returns a slice with the given elements whose spare capacity holds marks, and a check that
@@ -20,6 +22,41 @@ func spare[E comparable](t *testing.T, mark E, l ...E) ([]E, func(what string)) 
 		}
 	}
 	return whole[:len(l)], check
+}
+
+// spareRow returns a row with the same content whose values have spare capacity, and a check that
+// nothing within their capacity has changed.
+func spareRow(t *testing.T, r impl.Row) (impl.Row, func(what string)) {
+	t.Helper()
+	l, check := spare(t, impl.Val{Ty: 7, N: 77, S: "mark"}, r.L...)
+	return impl.Row{Id: r.Id, L: l}, check
+}
+
+// spareRows returns rows with the same content that have spare capacity, as their values have, and a
+// check that nothing within these capacities has changed.
+func spareRows(t *testing.T, rows ...impl.Row) ([]impl.Row, func(what string)) {
+	t.Helper()
+	var whole []impl.Row
+	var checks []func(string)
+	for _, r := range append(slices.Clone(rows), make([]impl.Row, 4)...) {
+		own, check := spareRow(t, r)
+		whole, checks = append(whole, own), append(checks, check)
+	}
+	before := slices.Clone(whole)
+	check := func(what string) {
+		t.Helper()
+		for i, r := range whole {
+			if r.Id != before[i].Id || !sameSlice(r.L, before[i].L) {
+				t.Errorf("%s: the argument's row %v has become %v", what, before[i], r)
+			}
+			checks[i](what)
+		}
+	}
+	return whole[:len(rows)], check
+}
+
+func sameSlice[E any](a, b []E) bool {
+	return len(a) == len(b) && cap(a) == cap(b) && unsafe.SliceData(a) == unsafe.SliceData(b)
 }
 
 // scribble overwrites a result and all its spare capacity.
