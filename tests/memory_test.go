@@ -55,6 +55,56 @@ func spareRows(t *testing.T, rows ...impl.Row) ([]impl.Row, func(what string)) {
 	return whole[:len(rows)], check
 }
 
+// markPred is what fills the spare capacity of lists of predicates.
+func markPred() impl.Pred {
+	return impl.Pred{Kind: 77, Col: 7, Op: 7, V: impl.Val{Ty: 7, N: 77, S: "mark"}}
+}
+
+// roomyPred returns a predicate with the same content all of whose lists have spare capacity.
+func roomyPred(p impl.Pred) impl.Pred {
+	l := make([]impl.Pred, 0, len(p.L)+3)
+	for _, q := range p.L {
+		l = append(l, roomyPred(q))
+	}
+	p.L = append(l, markPred(), markPred(), markPred())[:len(l)]
+	return p
+}
+
+// sparePred returns a predicate with the same content all of whose lists have spare capacity, and a
+// check that nothing within these capacities has changed.
+func sparePred(t *testing.T, p impl.Pred) (impl.Pred, func(what string)) {
+	t.Helper()
+	own, before := roomyPred(p), roomyPred(p)
+	check := func(what string) {
+		t.Helper()
+		if !sameWhole(own, before) {
+			t.Fatalf("%s: the argument %v has become %v", what, before, own)
+		}
+	}
+	return own, check
+}
+
+// sameWhole compares the spare capacities of the lists too.
+func sameWhole(a, b impl.Pred) bool {
+	return a.Kind == b.Kind && a.Col == b.Col && a.Op == b.Op && a.V == b.V && len(a.L) == len(b.L) && slices.EqualFunc(a.L[:cap(a.L)], b.L[:cap(b.L)], sameWhole)
+}
+
+// scribblePred overwrites all lists of a result and all their spare capacity.
+func scribblePred(p impl.Pred) {
+	for _, q := range p.L {
+		scribblePred(q)
+	}
+	scribble(p.L, markPred())
+}
+
+// scribbleSpare overwrites the spare capacity of all lists of a result, and nothing else.
+func scribbleSpare(p impl.Pred) {
+	for _, q := range p.L {
+		scribbleSpare(q)
+	}
+	scribble(p.L[len(p.L):], markPred())
+}
+
 func sameSlice[E any](a, b []E) bool {
 	return len(a) == len(b) && cap(a) == cap(b) && unsafe.SliceData(a) == unsafe.SliceData(b)
 }
